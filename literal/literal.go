@@ -1,0 +1,74 @@
+// Package literal has literals, and clauses as sets of them.
+package literal
+
+import "trail/api"
+
+// Set is what a clause says, whatever the order and the repeats of its literals: bit v of True stands for the literal v, bit v of False for -v.
+type Set struct {
+	True, False int
+}
+
+// Is tells whether a number is a literal.
+func Is(n int) bool {
+	// The bounds are tested one by one because the least int has no opposite.
+	return n != 0 && n >= -api.MaxVar && n <= api.MaxVar
+}
+
+// Of makes a set of literals; false, if one of the numbers is none.
+func Of(literals []int) (Set, bool) {
+	var s Set
+	for _, n := range literals {
+		if !Is(n) {
+			return Set{}, false
+		}
+		if n > 0 {
+			s.True |= bit(n)
+		} else {
+			s.False |= bit(-n)
+		}
+	}
+	return s, true
+}
+
+// IsTautology tells whether a literal and its opposite are in the set.
+func (s Set) IsTautology() bool {
+	return s.True&s.False != 0
+}
+
+// Size is the number of literals in the set.
+func (s Set) Size() int {
+	return CountVars(s.True) + CountVars(s.False)
+}
+
+// Vars has bit v for each variable v of the set.
+func (s Set) Vars() int {
+	return s.True | s.False
+}
+
+// CountVars is the number of variables of which the bit is there.
+func CountVars(vars int) int {
+	n := 0
+	for v := 1; v <= api.MaxVar; v++ {
+		if vars&bit(v) != 0 {
+			n++
+		}
+	}
+	return n
+}
+
+// Total is the number of literals that the sets have together.
+func Total(sets []Set) int {
+	n := 0
+	for _, s := range sets {
+		n += s.Size()
+	}
+	return n
+}
+
+// bit is 0 for what is no variable, so that no shift goes astray.
+func bit(v int) int {
+	if v < 1 || v > api.MaxVar {
+		return 0
+	}
+	return 1 << v
+}
