@@ -21,13 +21,26 @@ func Of(literals []int) (Set, bool) {
 		if !Is(n) {
 			return Set{}, false
 		}
-		if n > 0 {
-			s.True |= bit(n)
-		} else {
-			s.False |= bit(-n)
-		}
+		s = s.With(n)
 	}
 	return s, true
+}
+
+// With is the set and one literal more.
+func (s Set) With(n int) Set {
+	s.True |= bit(n)
+	s.False |= bit(-n)
+	return s
+}
+
+// Has tells whether a literal is in the set.
+func (s Set) Has(n int) bool {
+	return s.True&bit(n) != 0 || s.False&bit(-n) != 0
+}
+
+// Opposites has the opposite of each literal of the set.
+func (s Set) Opposites() Set {
+	return Set{True: s.False, False: s.True}
 }
 
 // IsTautology tells whether a literal and its opposite are in the set.
@@ -65,7 +78,7 @@ func Total(sets []Set) int {
 	return n
 }
 
-// bit is 0 for what is no variable, so that no shift goes astray.
+// bit is 0 for what is no variable: no shift goes astray, and of n and -n at most one has a bit.
 func bit(v int) int {
 	if v < 1 || v > api.MaxVar {
 		return 0

@@ -64,3 +64,30 @@ func TestTotal(t *testing.T) {
 		t.Errorf("Total of none = %d", n)
 	}
 }
+
+func TestHasWithOpposites(t *testing.T) {
+	s, _ := Of([]int{1, -3, 10, -10})
+	odd := []int{0, 11, -11, 64, -64, math.MinInt, math.MaxInt}
+	for n := -10; n <= 10; n++ {
+		want := n == 1 || n == -3 || n == 10 || n == -10
+		if s.Has(n) != want || s.Opposites().Has(-n) != want {
+			t.Errorf("Has(%d) = %v, its opposite is among the opposites: %v", n, s.Has(n), s.Opposites().Has(-n))
+		}
+		if !Is(n) {
+			continue
+		}
+		more := s.With(n)
+		all, _ := Of([]int{1, -3, 10, -10, n})
+		if more != all {
+			t.Errorf("With(%d) = %+v, want %+v", n, more, all)
+		}
+	}
+	for _, n := range odd {
+		if s.Has(n) || s.With(n) != s {
+			t.Errorf("what is no literal: Has(%d) = %v, With(%d) = %+v", n, s.Has(n), n, s.With(n))
+		}
+	}
+	if s.Opposites().Opposites() != s || s.Opposites() == s {
+		t.Errorf("Opposites = %+v", s.Opposites())
+	}
+}

@@ -1,4 +1,4 @@
-// Package texts reads and writes clauses as texts.
+// Package texts reads and writes clauses as texts, and reads the lines of proofs.
 package texts
 
 import "trail/api"

@@ -4,6 +4,8 @@ package trail
 import (
 	"trail/api"
 	"trail/literal"
+	"trail/proofs"
+	"trail/pushing"
 	"trail/texts"
 )
 
@@ -52,20 +54,16 @@ func (x *Solver) Add(clause []int) api.Errno {
 	if set.IsTautology() {
 		return api.OK
 	}
+	if set.Size() == 0 {
+		x.empty++
+		return api.OK
+	}
 	if set.Size()+literal.Total(x.taken) > api.MaxLits {
 		return api.ErrFull
 	}
-	x.take(set)
-	return api.OK
-}
-
-func (x *Solver) take(set literal.Set) {
-	if set.Size() == 0 {
-		x.empty++
-		return
-	}
 	x.taken = append(x.taken, set)
 	x.seen |= set.Vars()
+	return api.OK
 }
 
 // Counts tells of the solver (P7).
@@ -88,7 +86,30 @@ func (x *Solver) Proof() string { return string(x.proof) }
 func (x *Solver) Reset() { *x = Solver{settings: x.settings} }
 
 // Check reads a proof over clauses (P8).
-func Check(clauses [][]int, proof string) ([]int, api.Errno, int) { return nil, api.OK, 0 }
+func Check(clauses [][]int, proof string) ([]int, api.Errno, int) {
+	if len(proof) > api.MaxProof {
+		return nil, api.ErrLong, 0
+	}
+	var x Solver
+	for i, c := range clauses {
+		err := x.Add(c)
+		if err != api.OK {
+			return nil, err, i
+		}
+	}
+	stands := x.standing()
+	return proofs.Check(stands, proof)
+}
+
+// standing is what stands there ahead of the first line of a proof.
+func (x *Solver) standing() *pushing.Clauses {
+	c := pushing.New()
+	c.Add(literal.Set{}, x.empty)
+	for _, set := range x.taken {
+		c.Add(set, 1)
+	}
+	return c
+}
 
 // Solve seeks values (P9 to P15).
 func (x *Solver) Solve(assume []int, budget int) (api.Answer, api.Errno) {
