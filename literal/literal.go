@@ -43,6 +43,30 @@ func (s Set) Opposites() Set {
 	return Set{True: s.False, False: s.True}
 }
 
+// Join is both sets together.
+func (s Set) Join(more Set) Set {
+	return Set{True: s.True | more.True, False: s.False | more.False}
+}
+
+// Within has the literals of the set whose variables have their bits there.
+func (s Set) Within(vars int) Set {
+	return Set{True: s.True & vars, False: s.False & vars}
+}
+
+// List has the literals of the set, by their variables in rising order.
+func (s Set) List() []int {
+	var l []int
+	for v := 1; v <= api.MaxVar; v++ {
+		if s.Has(v) {
+			l = append(l, v)
+		}
+		if s.Has(-v) {
+			l = append(l, -v)
+		}
+	}
+	return l
+}
+
 // IsTautology tells whether a literal and its opposite are in the set.
 func (s Set) IsTautology() bool {
 	return s.True&s.False != 0
@@ -67,6 +91,16 @@ func CountVars(vars int) int {
 		}
 	}
 	return n
+}
+
+// FirstVar is the least variable of which the bit is there, or 0.
+func FirstVar(vars int) int {
+	for v := 1; v <= api.MaxVar; v++ {
+		if vars&bit(v) != 0 {
+			return v
+		}
+	}
+	return 0
 }
 
 // Total is the number of literals that the sets have together.

@@ -2,6 +2,7 @@ package literal
 
 import (
 	"math"
+	"slices"
 	"testing"
 )
 
@@ -89,5 +90,57 @@ func TestHasWithOpposites(t *testing.T) {
 	}
 	if s.Opposites().Opposites() != s || s.Opposites() == s {
 		t.Errorf("Opposites = %+v", s.Opposites())
+	}
+}
+
+func TestJoinWithinList(t *testing.T) {
+	a, _ := Of([]int{10, -3, 1, -10})
+	b, _ := Of([]int{3, -3, 7})
+	for _, c := range []struct {
+		set  Set
+		want []int
+	}{
+		{Set{}, nil},
+		{a, []int{1, -3, 10, -10}},
+		{a.Join(b), []int{1, 3, -3, 7, 10, -10}},
+		{a.Join(Set{}), []int{1, -3, 10, -10}},
+		{a.Within(b.Vars()), []int{-3}},
+		{b.Within(a.Vars()), []int{3, -3}},
+		{b.Within(0), nil},
+		{a.Within(a.Vars()), []int{1, -3, 10, -10}},
+	} {
+		if got := c.set.List(); !slices.Equal(got, c.want) {
+			t.Errorf("List of %+v = %v, want %v", c.set, got, c.want)
+		}
+	}
+	one, two := a.List(), a.List()
+	one = one[:cap(one)]
+	for i := range one {
+		one[i] = 77
+	}
+	if !slices.Equal(two, []int{1, -3, 10, -10}) {
+		t.Errorf("P2: a list that came out reads %v later", two)
+	}
+}
+
+func TestFirstVar(t *testing.T) {
+	for _, c := range []struct {
+		literals []int
+		want     int
+	}{
+		{nil, 0},
+		{[]int{1}, 1},
+		{[]int{-10}, 10},
+		{[]int{9, -4, 10, -9}, 4},
+		{[]int{10, 9, 8, 7, 6, 5, 4, 3, 2, -1}, 1},
+	} {
+		s, _ := Of(c.literals)
+		if got := FirstVar(s.Vars()); got != c.want {
+			t.Errorf("FirstVar of %v = %d, want %d", c.literals, got, c.want)
+		}
+	}
+	// Bits that stand for no variable are passed over.
+	if got := FirstVar(1 | 1<<11); got != 0 {
+		t.Errorf("FirstVar of no variable = %d", got)
 	}
 }

@@ -80,19 +80,25 @@ func (c *Clauses) Drop(set literal.Set) bool {
 
 // Follows tells whether a clause follows by pushing.
 func (c *Clauses) Follows(set literal.Set) bool {
-	known := set.Opposites()
+	_, clash := c.Push(set.Opposites())
+	return clash
+}
+
+// Push pushes from some literals: what is known at the end, and false; or the empty set and true, if it comes to a clash.
+func (c *Clauses) Push(from literal.Set) (literal.Set, bool) {
+	known := from
 	for !known.IsTautology() {
 		p := pass{nodes: c.nodes, known: known, grown: known}
 		p.visit(0, 1, 0)
 		if p.clash {
-			return true
+			return literal.Set{}, true
 		}
 		if p.grown == known {
-			return false
+			return known, false
 		}
 		known = p.grown
 	}
-	return true
+	return literal.Set{}, true
 }
 
 // pass goes once over the clauses. What it finds is laid in grown and not in known: the way to a node was chosen by what was known then.

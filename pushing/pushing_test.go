@@ -218,3 +218,62 @@ func TestFollowsAsTheWordsSay(t *testing.T) {
 		t.Errorf("too few of a kind: %d follow, %d do not", yes, no)
 	}
 }
+
+func TestPush(t *testing.T) {
+	chain := [][]int{{-3, 4}, {-2, 3}, {-1, 2}}
+	for _, c := range []struct {
+		clauses [][]int
+		from    []int
+		want    []int
+		clash   bool
+	}{
+		{nil, nil, nil, false},
+		{nil, []int{3, -10}, []int{3, -10}, false},
+		{nil, []int{3, -3}, nil, true},
+		{[][]int{nil}, nil, nil, true},
+		{[][]int{nil}, []int{1}, nil, true},
+		{[][]int{{1}}, nil, []int{1}, false},
+		{[][]int{{1}}, []int{-1}, nil, true},
+		{chain, nil, nil, false},
+		{chain, []int{1}, []int{1, 2, 3, 4}, false},
+		{chain, []int{-4, 9}, []int{9, -4, -3, -2, -1}, false},
+		{chain, []int{1, -4}, nil, true},
+		{append([][]int{{2}}, chain...), nil, []int{2, 3, 4}, false},
+		{append([][]int{{2}}, chain...), []int{-4}, nil, true},
+		{[][]int{{1, 2}, {1, -2}}, nil, nil, false},
+		{[][]int{{1, 2}, {1, -2}}, []int{-1}, nil, true},
+		{[][]int{{1, 2}, {1, -2}}, []int{1}, []int{1}, false},
+		{[][]int{{1, 2}, {1, -2}}, []int{-2}, []int{1, -2}, false},
+	} {
+		known, clash := stands(t, c.clauses...).Push(set(t, c.from...))
+		if known != set(t, c.want...) || clash != c.clash {
+			t.Errorf("P8: over %v pushing from %v makes known %v, a clash: %v", c.clauses, c.from, known.List(), clash)
+		}
+	}
+}
+
+func TestPushMakesKnownWhatFollows(t *testing.T) {
+	r := rand.New(rand.NewSource(2))
+	for range 3000 {
+		vars := 1 + r.Intn(6)
+		var clauses [][]int
+		for range r.Intn(3 * vars) {
+			clauses = append(clauses, append(randomClause(r, vars, 2), 1+r.Intn(vars)))
+		}
+		c := stands(t, clauses...)
+		from := randomClause(r, vars, 3)
+		known, clash := c.Push(set(t, from...))
+		if want := byTheWords(clauses, set(t, from...).Opposites().List()); clash != want {
+			t.Fatalf("P8: over %v pushing from %v comes to a clash: %v", clauses, from, clash)
+		}
+		again, _ := c.Push(known)
+		if !clash && (again != known || known.Join(set(t, from...)) != known) {
+			t.Fatalf("P8: over %v pushing from %v makes known %v", clauses, from, known.List())
+		}
+		for _, n := range known.List() {
+			if !c.Follows(set(t, from...).Opposites().With(n)) {
+				t.Fatalf("P8: over %v pushing from %v makes known %d", clauses, from, n)
+			}
+		}
+	}
+}

@@ -15,6 +15,20 @@ type Line struct {
 	Literals []int
 }
 
+// Size is what a line adds to the size of its proof.
+func (l Line) Size() int {
+	return len(l.Literals) + 1
+}
+
+// AppendLine writes a line behind what stands in a proof.
+func AppendLine(proof []byte, line Line) []byte {
+	proof = append(proof, line.Letter, ' ')
+	for _, n := range line.Literals {
+		proof = appendLiteral(proof, n)
+	}
+	return appendEnd(proof)
+}
+
 // ReadLine reads the line that begins at a place, and tells the place behind it; false, if none begins there.
 func ReadLine(proof string, at int) (Line, int, bool) {
 	if !lineBegins(proof, at) {

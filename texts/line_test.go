@@ -90,3 +90,35 @@ func TestReadLineAllShortTexts(t *testing.T) {
 	longer("", 4)
 	longer("e ", 6)
 }
+
+func TestAppendLine(t *testing.T) {
+	for _, c := range []struct {
+		line Line
+		want string
+		size int
+	}{
+		{Line{Adds, nil}, "a 0\n", 1},
+		{Line{Ends, []int{}}, "e 0\n", 1},
+		{Line{Drops, []int{-7}}, "d -7 0\n", 2},
+		{Line{Adds, []int{10, -10, 3, 3}}, "a 10 -10 3 3 0\n", 5},
+		{Line{Ends, []int{1, -2, 3, -4, 5, -6, 7, -8, 9, -10}}, "e 1 -2 3 -4 5 -6 7 -8 9 -10 0\n", 11},
+		// A proof may be longer than a text of clauses.
+		{Line{Ends, repeat(-7, 1000)}, "e " + strings.Repeat("-7 ", 1000) + "0\n", 1001},
+	} {
+		if got := c.line.Size(); got != c.size {
+			t.Errorf("P7: the size of %v is %d, want %d", c.line, got, c.size)
+		}
+		if got := string(AppendLine(nil, c.line)); got != c.want {
+			t.Errorf("P12: AppendLine(nil, %v) = %.40q, want %.40q", c.line, got, c.want)
+		}
+		ahead := strings.Repeat("a 1 0\n", 1000)
+		got := string(AppendLine([]byte(ahead), c.line))
+		if got != ahead+c.want {
+			t.Errorf("P12: AppendLine(..., %v) ends in %.40q, want %.40q", c.line, got[min(len(got), len(ahead)):], c.want)
+		}
+		line, next, right := ReadLine(got, len(ahead))
+		if !right || next != len(got) || fmt.Sprint(line.Literals) != fmt.Sprint(c.line.Literals) || line.Letter != c.line.Letter {
+			t.Errorf("P12: of %v is read %v, %d, %v", c.line, line, next, right)
+		}
+	}
+}

@@ -39,8 +39,16 @@ func appendClause(text []byte, literals []int) []byte {
 		if len(text) > api.MaxText {
 			return text
 		}
-		text = append(text, strconv.Itoa(n)...)
-		text = append(text, ' ')
+		text = appendLiteral(text, n)
 	}
+	return appendEnd(text)
+}
+
+func appendLiteral(text []byte, n int) []byte {
+	text = append(text, strconv.Itoa(n)...)
+	return append(text, ' ')
+}
+
+func appendEnd(text []byte) []byte {
 	return append(text, '0', '\n')
 }

@@ -101,17 +101,15 @@ func Check(clauses [][]int, proof string) ([]int, api.Errno, int) {
 	return proofs.Check(stands, proof)
 }
 
-// standing is what stands there ahead of the first line of a proof.
+// standing is what stands there: all clauses that were taken or learnt.
 func (x *Solver) standing() *pushing.Clauses {
 	c := pushing.New()
 	c.Add(literal.Set{}, x.empty)
 	for _, set := range x.taken {
 		c.Add(set, 1)
 	}
+	for _, set := range x.learnt {
+		c.Add(set, 1)
+	}
 	return c
-}
-
-// Solve seeks values (P9 to P15).
-func (x *Solver) Solve(assume []int, budget int) (api.Answer, api.Errno) {
-	return api.Answer{}, api.OK
 }

@@ -1,0 +1,27 @@
+// Package components has the components of clauses.
+package components
+
+import "trail/literal"
+
+// Of has the components of some clauses, each as its variables' bits. None of the clauses is a tautology, and none is empty.
+func Of(clauses []literal.Set) []int {
+	var found []int
+	for _, c := range clauses {
+		found = link(found, c.Vars())
+	}
+	return found
+}
+
+// link makes one component of the variables of a clause and of all components that have one of them.
+func link(components []int, vars int) []int {
+	var linked []int
+	for _, c := range components {
+		// Components have no variable in common, so that none that was passed over is reached by what is added here.
+		if c&vars != 0 {
+			vars |= c
+		} else {
+			linked = append(linked, c)
+		}
+	}
+	return append(linked, vars)
+}

@@ -1,0 +1,96 @@
+package search
+
+import (
+	"fmt"
+	"testing"
+
+	"trail/api"
+	"trail/components"
+	"trail/literal"
+	"trail/pushing"
+	"trail/texts"
+)
+
+var signs = [][]int{{1, 2}, {1, -2}, {-1, 2}, {-1, -2}}
+
+// run searches over clauses, and tells the lines as a text.
+func run(t *testing.T, clauses [][]int, room Room) (api.Answer, string, *pushing.Clauses) {
+	t.Helper()
+	stands := pushing.New()
+	var sets []literal.Set
+	for _, c := range clauses {
+		s, right := literal.Of(c)
+		if !right {
+			t.Fatal("no literals:", c)
+		}
+		stands.Add(s, 1)
+		if len(c) > 0 {
+			sets = append(sets, s)
+		}
+	}
+	a, lines := Run(stands, components.Of(sets), room)
+	var proof []byte
+	for _, l := range lines {
+		proof = texts.AppendLine(proof, l)
+	}
+	return a, string(proof), stands
+}
+
+func TestRun(t *testing.T) {
+	for _, c := range []struct {
+		clauses [][]int
+		room    Room
+		status  int
+		reason  int
+		lines   int
+	}{
+		{nil, Room{}, api.Sat, 0, 0},
+		{[][]int{nil}, Room{}, api.Unknown, api.ByLog, 0},
+		{[][]int{nil}, Room{Log: 1}, api.Unsat, 0, 1},
+		{[][]int{{3}, {-4}}, Room{}, api.Sat, 0, 0},
+		{[][]int{{3}, {-3}}, Room{Log: 1}, api.Unsat, 0, 1},
+		{[][]int{{1, 2}, {-1, -2}, {3, 4}}, Room{}, api.Sat, 0, 0},
+		{signs, Room{}, api.Unknown, api.ByHeld, 0},
+		{signs, Room{Held: 1}, api.Unknown, api.ByLog, 0},
+		{signs, Room{Held: 1, Log: 1}, api.Unknown, api.ByLog, 0},
+		{signs, Room{Log: 3}, api.Unknown, api.ByHeld, 0},
+		{signs, Room{Held: 1, Log: 2}, api.Unknown, api.ByLog, 1},
+		{signs, Room{Held: 1, Log: 3}, api.Unsat, 0, 2},
+		{signs, Room{Budget: 1, Held: 1, Log: 3}, api.Unsat, 0, 2},
+	} {
+		a, proof, _ := run(t, c.clauses, c.room)
+		lines := 0
+		for _, b := range proof {
+			if b == '\n' {
+				lines++
+			}
+		}
+		if a.Status != c.status || a.Reason != c.reason || lines != c.lines {
+			t.Errorf("P10 to P13: over %v with %+v: %+v, %q", c.clauses, c.room, a, proof)
+		}
+	}
+}
+
+func TestRunTellsValuesOfAllComponents(t *testing.T) {
+	a, proof, _ := run(t, [][]int{{-9, 2}, {9}, {4, -7}, {-4}, {10, 1}, {-10, -1}, {-1}}, Room{})
+	if a.Status != api.Sat || fmt.Sprint(a.Values) != "[-1 2 -4 -7 9 10]" || proof != "" {
+		t.Errorf("P10: %+v, %q", a, proof)
+	}
+}
+
+func TestRunLeavesWhatItLearnt(t *testing.T) {
+	// Three variables in all signs: nothing follows of one literal.
+	var clauses [][]int
+	for i := range 8 {
+		clauses = append(clauses, []int{1 - i&1*2, 2 - i>>1&1*4, 3 - i>>2&1*6})
+	}
+	a, proof, stands := run(t, clauses, Room{Budget: 1, Held: 100, Log: 100})
+	line, next, right := texts.ReadLine(proof, 0)
+	if a.Status != api.Unknown || a.Reason != api.ByBudget || a.Clause != nil || !right || next != len(proof) || line.Letter != texts.Adds {
+		t.Fatalf("P13: the budget 1: %+v, %q", a, proof)
+	}
+	set, _ := literal.Of(line.Literals)
+	if !stands.Drop(set) || stands.Drop(set) {
+		t.Errorf("P12: %q was learnt, and does not stand there once", proof)
+	}
+}
