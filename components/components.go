@@ -3,11 +3,22 @@ package components
 
 import "trail/literal"
 
-// Of has the components of some clauses, each as its variables' bits. None of the clauses is a tautology, and none is empty.
-func Of(clauses []literal.Set) []int {
-	var found []int
+// Of has the components of some clauses, each as its variables' bits, and by itself each variable that was seen but that no clause has. None of the clauses is a tautology, and none is empty.
+func Of(clauses []literal.Set, seen int) []int {
+	found := apart(seen)
 	for _, c := range clauses {
 		found = link(found, c.Vars())
+	}
+	return found
+}
+
+// apart has each of the variables by itself.
+func apart(vars int) []int {
+	var found []int
+	for vars != 0 {
+		least := vars & -vars
+		found = append(found, least)
+		vars &^= least
 	}
 	return found
 }

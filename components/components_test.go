@@ -24,18 +24,25 @@ func sets(t *testing.T, clauses [][]int) []literal.Set {
 func TestOf(t *testing.T) {
 	for _, c := range []struct {
 		clauses [][]int
+		seen    []int
 		want    [][]int
 	}{
-		{nil, nil},
-		{[][]int{{1}}, [][]int{{1}}},
-		{[][]int{{-10}, {10}, {1}}, [][]int{{1}, {10}}},
-		{[][]int{{1, 2}, {-2, 3}}, [][]int{{1, 2, 3}}},
-		{[][]int{{1, 2}, {3, 4}}, [][]int{{1, 2}, {3, 4}}},
-		{[][]int{{1, 2}, {3, 4}, {-4, -1}}, [][]int{{1, 2, 3, 4}}},
-		{[][]int{{1}, {2}, {3}, {4}, {5, 6}, {1, -2, 3}, {6, 7}}, [][]int{{1, 2, 3}, {4}, {5, 6, 7}}},
-		{[][]int{{1, 10}, {2, 9}, {3, 8}, {4, 7}, {5, 6}, {10, 9}, {8, 7}, {7, 6}}, [][]int{{1, 2, 9, 10}, {3, 4, 5, 6, 7, 8}}},
+		{nil, nil, nil},
+		{nil, []int{10}, [][]int{{10}}},
+		{nil, []int{3, 1, 10}, [][]int{{1}, {3}, {10}}},
+		{[][]int{{1, -2}}, []int{1, 2}, [][]int{{1, 2}}},
+		{[][]int{{1, -2}, {4}}, []int{9, 2, 1, 5, 4}, [][]int{{1, 2}, {4}, {5}, {9}}},
+		{[][]int{{1, 10}}, []int{1, 2, 3, 4, 5, 6, 7, 8, 9, 10}, [][]int{{1, 10}, {2}, {3}, {4}, {5}, {6}, {7}, {8}, {9}}},
+		{[][]int{{1}}, nil, [][]int{{1}}},
+		{[][]int{{-10}, {10}, {1}}, nil, [][]int{{1}, {10}}},
+		{[][]int{{1, 2}, {-2, 3}}, nil, [][]int{{1, 2, 3}}},
+		{[][]int{{1, 2}, {3, 4}}, nil, [][]int{{1, 2}, {3, 4}}},
+		{[][]int{{1, 2}, {3, 4}, {-4, -1}}, nil, [][]int{{1, 2, 3, 4}}},
+		{[][]int{{1}, {2}, {3}, {4}, {5, 6}, {1, -2, 3}, {6, 7}}, nil, [][]int{{1, 2, 3}, {4}, {5, 6, 7}}},
+		{[][]int{{1, 10}, {2, 9}, {3, 8}, {4, 7}, {5, 6}, {10, 9}, {8, 7}, {7, 6}}, nil, [][]int{{1, 2, 9, 10}, {3, 4, 5, 6, 7, 8}}},
 	} {
-		got := Of(sets(t, c.clauses))
+		seen, _ := literal.Of(c.seen)
+		got := Of(sets(t, c.clauses), seen.Vars())
 		if len(got) != len(c.want) {
 			t.Errorf("P12: over %v %d components, want %v", c.clauses, len(got), c.want)
 			continue
@@ -83,8 +90,15 @@ func TestOfAsTheWordsSay(t *testing.T) {
 			}
 			clauses = append(clauses, c)
 		}
+		var bits literal.Set
+		for range r.Intn(4) {
+			seen[1+r.Intn(10)] = true
+		}
+		for v := range seen {
+			bits = bits.With(v)
+		}
 		all := 0
-		for _, vars := range Of(sets(t, clauses)) {
+		for _, vars := range Of(sets(t, clauses), bits.Vars()) {
 			want := reach(clauses, literal.FirstVar(vars))
 			for v := range want {
 				s, _ := literal.Of([]int{v})

@@ -33,6 +33,13 @@ func (s Set) With(n int) Set {
 	return s
 }
 
+// Without is the set but for one literal.
+func (s Set) Without(n int) Set {
+	s.True &^= bit(n)
+	s.False &^= bit(-n)
+	return s
+}
+
 // Has tells whether a literal is in the set.
 func (s Set) Has(n int) bool {
 	return s.True&bit(n) != 0 || s.False&bit(-n) != 0

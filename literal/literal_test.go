@@ -82,10 +82,14 @@ func TestHasWithOpposites(t *testing.T) {
 		if more != all {
 			t.Errorf("With(%d) = %+v, want %+v", n, more, all)
 		}
+		less := s.Without(n)
+		if less.Has(n) || less.Has(-n) != s.Has(-n) || want && less.With(n) != s || !want && less != s {
+			t.Errorf("Without(%d) = %+v", n, less)
+		}
 	}
 	for _, n := range odd {
-		if s.Has(n) || s.With(n) != s {
-			t.Errorf("what is no literal: Has(%d) = %v, With(%d) = %+v", n, s.Has(n), n, s.With(n))
+		if s.Has(n) || s.With(n) != s || s.Without(n) != s {
+			t.Errorf("what is no literal: Has(%d) = %v, With(%d) = %+v, Without(%d) = %+v", n, s.Has(n), n, s.With(n), n, s.Without(n))
 		}
 	}
 	if s.Opposites().Opposites() != s || s.Opposites() == s {

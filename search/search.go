@@ -1,4 +1,4 @@
-// Package search seeks values by which clauses are so, and learns clauses on the way.
+// Package search seeks values by which clauses and assumptions are so, and learns clauses on the way.
 package search
 
 import (
@@ -20,18 +20,21 @@ type Room struct {
 
 // search is what one search has come to. Its room becomes less by what it adds.
 type search struct {
-	stands *pushing.Clauses
-	room   Room
-	learnt int
-	lines  []texts.Line
-	values literal.Set
-	answer api.Answer
+	stands  *pushing.Clauses
+	assume  []int
+	assumed literal.Set
+	room    Room
+	learnt  int
+	lines   []texts.Line
+	values  literal.Set
+	answer  api.Answer
 }
 
-// Run seeks values for the variables of all components, over what stands there (P10 to P14). It tells the answer and the lines that it wrote; what it learnt stands there then.
-func Run(stands *pushing.Clauses, components []int, room Room) (api.Answer, []texts.Line) {
-	s := search{stands: stands, room: room}
-	// The empty clause is in no component, so that there must be a look without any variable.
+// Run seeks values for the variables of all components, over what stands there, with the assumptions (P10 to P14). These are literals, of variables of the components. It tells the answer and the lines that it wrote; what it learnt stands there then.
+func Run(stands *pushing.Clauses, components, assume []int, room Room) (api.Answer, []texts.Line) {
+	assumed, _ := literal.Of(assume)
+	s := search{stands: stands, assume: assume, assumed: assumed, room: room}
+	// First a look without any variable: the empty clause is in no component, and a clash without decisions is found ahead of all learning.
 	going := s.seek(0)
 	for _, vars := range components {
 		if going {
@@ -48,15 +51,19 @@ func Run(stands *pushing.Clauses, components []int, room Room) (api.Answer, []te
 //
 // It ends: each turn makes a decision more, or learns a clause that was not there.
 func (s *search) seek(vars int) bool {
-	var decided literal.Set
+	decided := s.assumed
 	for {
 		known, clash := s.stands.Push(decided)
+		if clash && decided == s.assumed {
+			s.end()
+			return false
+		}
 		if clash {
 			if !s.refute(decided) {
 				return false
 			}
 			// No decision is kept: over what stands there now it may be none any more (see learn).
-			decided = literal.Set{}
+			decided = s.assumed
 			continue
 		}
 		v := literal.FirstVar(vars &^ known.Vars())
@@ -68,21 +75,47 @@ func (s *search) seek(vars int) bool {
 	}
 }
 
-// refute writes that decisions by which pushing comes to a clash can't all be right; false, if the search ends with that.
+// end ends the search because pushing from the assumptions alone comes to a clash.
+func (s *search) end() {
+	core := s.needed(s.assumed)
+	if s.write(texts.Ends, core.Opposites()) {
+		s.answer = api.Answer{Status: api.Unsat, Core: inOrder(core, s.assume)}
+	}
+}
+
+// refute learns that decisions and assumptions by which pushing comes to a clash can't all be right; false, if there is no room for that.
 func (s *search) refute(decided literal.Set) bool {
-	clause := decided.Opposites()
-	if clause.Size() > 0 {
-		return s.learn(clause)
+	needed := s.needed(decided)
+	return s.learn(needed.Opposites())
+}
+
+// needed leaves out the assumptions without which pushing comes to a clash too, so that what is learnt holds for more Solves, and a core has less. All that is left is of one component (P12): pushing goes from none to another, so that a clash needs no assumption of another.
+func (s *search) needed(decided literal.Set) literal.Set {
+	for _, n := range s.assume {
+		less := decided.Without(n)
+		_, clash := s.stands.Push(less)
+		if clash {
+			decided = less
+		}
 	}
-	if s.write(texts.Ends, clause) {
-		s.answer = api.Answer{Status: api.Unsat}
+	return decided
+}
+
+// inOrder has the literals of a set in their order in a list, each where it stands there first.
+func inOrder(set literal.Set, list []int) []int {
+	var l []int
+	for _, n := range list {
+		if set.Has(n) {
+			l = append(l, n)
+			set = set.Without(n)
+		}
 	}
-	return false
+	return l
 }
 
 // learn adds a clause; false, if there is no room for it.
 //
-// The clause is none of those that stand there: they are the same since the first decision, so that pushing from all decisions but the last would have made the opposite of the last one known, and it would not have been decided.
+// The clause is none of those that stand there: they are the same since the first decision, so that pushing from the assumptions and all decisions but the last would have come to a clash, or made the opposite of the last one known, and it would not have been decided.
 func (s *search) learn(clause literal.Set) bool {
 	if s.room.Budget > 0 && s.learnt >= s.room.Budget {
 		s.answer = unknown(api.ByBudget, literal.Set{})

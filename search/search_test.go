@@ -14,7 +14,7 @@ import (
 var signs = [][]int{{1, 2}, {1, -2}, {-1, 2}, {-1, -2}}
 
 // run searches over clauses, and tells the lines as a text.
-func run(t *testing.T, clauses [][]int, room Room) (api.Answer, string, *pushing.Clauses) {
+func run(t *testing.T, clauses [][]int, assume []int, room Room) (api.Answer, string, *pushing.Clauses) {
 	t.Helper()
 	stands := pushing.New()
 	var sets []literal.Set
@@ -28,7 +28,8 @@ func run(t *testing.T, clauses [][]int, room Room) (api.Answer, string, *pushing
 			sets = append(sets, s)
 		}
 	}
-	a, lines := Run(stands, components.Of(sets), room)
+	assumed, _ := literal.Of(assume)
+	a, lines := Run(stands, components.Of(sets, assumed.Vars()), assume, room)
 	var proof []byte
 	for _, l := range lines {
 		proof = texts.AppendLine(proof, l)
@@ -58,7 +59,7 @@ func TestRun(t *testing.T) {
 		{signs, Room{Held: 1, Log: 3}, api.Unsat, 0, 2},
 		{signs, Room{Budget: 1, Held: 1, Log: 3}, api.Unsat, 0, 2},
 	} {
-		a, proof, _ := run(t, c.clauses, c.room)
+		a, proof, _ := run(t, c.clauses, nil, c.room)
 		lines := 0
 		for _, b := range proof {
 			if b == '\n' {
@@ -72,7 +73,7 @@ func TestRun(t *testing.T) {
 }
 
 func TestRunTellsValuesOfAllComponents(t *testing.T) {
-	a, proof, _ := run(t, [][]int{{-9, 2}, {9}, {4, -7}, {-4}, {10, 1}, {-10, -1}, {-1}}, Room{})
+	a, proof, _ := run(t, [][]int{{-9, 2}, {9}, {4, -7}, {-4}, {10, 1}, {-10, -1}, {-1}}, nil, Room{})
 	if a.Status != api.Sat || fmt.Sprint(a.Values) != "[-1 2 -4 -7 9 10]" || proof != "" {
 		t.Errorf("P10: %+v, %q", a, proof)
 	}
@@ -84,7 +85,7 @@ func TestRunLeavesWhatItLearnt(t *testing.T) {
 	for i := range 8 {
 		clauses = append(clauses, []int{1 - i&1*2, 2 - i>>1&1*4, 3 - i>>2&1*6})
 	}
-	a, proof, stands := run(t, clauses, Room{Budget: 1, Held: 100, Log: 100})
+	a, proof, stands := run(t, clauses, nil, Room{Budget: 1, Held: 100, Log: 100})
 	line, next, right := texts.ReadLine(proof, 0)
 	if a.Status != api.Unknown || a.Reason != api.ByBudget || a.Clause != nil || !right || next != len(proof) || line.Letter != texts.Adds {
 		t.Fatalf("P13: the budget 1: %+v, %q", a, proof)
@@ -92,5 +93,50 @@ func TestRunLeavesWhatItLearnt(t *testing.T) {
 	set, _ := literal.Of(line.Literals)
 	if !stands.Drop(set) || stands.Drop(set) {
 		t.Errorf("P12: %q was learnt, and does not stand there once", proof)
+	}
+}
+
+func TestRunWithAssumptions(t *testing.T) {
+	chain := [][]int{{-1, 2}, {-2, 3}, {-4, 5}}
+	for _, c := range []struct {
+		clauses [][]int
+		assume  []int
+		room    Room
+		status  int
+		list    string
+		proof   string
+	}{
+		{nil, []int{7, -3}, Room{}, api.Sat, "[-3 7]", ""},
+		{nil, []int{7, 7, -3, -7}, Room{Log: 3}, api.Unsat, "[7 -7]", "e 7 -7 0\n"},
+		{nil, []int{7, -7}, Room{Log: 2}, api.Unknown, "[7 -7]", ""},
+		{chain, []int{-3}, Room{}, api.Sat, "[-1 -2 -3 4 5]", ""},
+		{chain, []int{9, 1, -5}, Room{}, api.Sat, "[1 2 3 -4 -5 9]", ""},
+		{chain, []int{9, -3, 4, 1}, Room{Log: 3}, api.Unsat, "[-3 1]", "e -1 3 0\n"},
+		{chain, []int{9, -3, 4, 1}, Room{Log: 2}, api.Unknown, "[-1 3]", ""},
+		// Of assumptions that are not needed all, some are left out.
+		{chain, []int{1, 2, -3, 4}, Room{Log: 3}, api.Unsat, "[2 -3]", "e -2 3 0\n"},
+		{chain, []int{-3, 2, 1, 2, -3}, Room{Log: 3}, api.Unsat, "[-3 1]", "e -1 3 0\n"},
+		{append(chain, []int{-3}), []int{4, 2}, Room{Log: 2}, api.Unsat, "[2]", "e -2 0\n"},
+		{append(chain, nil), []int{4, 2}, Room{Log: 1}, api.Unsat, "[]", "e 0\n"},
+		{append(chain, []int{6}, []int{-6}), []int{1, -3}, Room{Log: 1}, api.Unsat, "[]", "e 0\n"},
+		{append(chain, []int{6}, []int{-6}), []int{1, -3}, Room{}, api.Unknown, "[]", ""},
+		// A clash by the assumptions alone is found ahead of all learning.
+		{append(signs, []int{-4, 5}), []int{4, -5}, Room{Log: 3}, api.Unsat, "[4 -5]", "e -4 5 0\n"},
+		{append(signs, []int{-4, 5}), []int{10, -10}, Room{Log: 3}, api.Unsat, "[10 -10]", "e 10 -10 0\n"},
+	} {
+		a, proof, _ := run(t, c.clauses, c.assume, c.room)
+		list := append(append(append([]int{}, a.Values...), a.Core...), a.Clause...)
+		if a.Status != c.status || fmt.Sprint(list) != c.list || proof != c.proof {
+			t.Errorf("P10 to P13: over %v with %v: %+v, %q", c.clauses, c.assume, a, proof)
+		}
+	}
+}
+
+// What is learnt has no assumption that the clash does not need, so that it holds for other Solves too.
+func TestRunLearnsWithoutIdleAssumptions(t *testing.T) {
+	clauses := [][]int{{1, 2, 6}, {1, -2, 6}, {-1, 2, 6}, {-1, -2, 6}, {7, 8, 1}}
+	a, proof, _ := run(t, clauses, []int{8, -6, 7}, Room{Held: 100, Log: 100})
+	if a.Status != api.Unsat || fmt.Sprint(a.Core) != "[-6]" || proof != "a -1 6 0\ne 6 0\n" {
+		t.Errorf("P11: %+v, %q", a, proof)
 	}
 }

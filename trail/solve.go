@@ -14,14 +14,15 @@ func (x *Solver) Solve(assume []int, budget int) (api.Answer, api.Errno) {
 	if err != api.OK {
 		return api.Answer{}, err
 	}
-	// The search heeds neither assumptions nor Reduce so far, and no answer is better than a wrong one.
-	if len(assume) > 0 || x.settings.Reduce > 0 {
+	x.see(assume)
+	// The search does not heed Reduce so far, and no answer is better than a wrong one.
+	if x.settings.Reduce > 0 {
 		return api.Answer{}, api.OK
 	}
 	stands := x.standing()
-	parts := components.Of(x.taken)
+	parts := components.Of(x.taken, x.seen)
 	room := x.room(budget)
-	answer, lines := search.Run(stands, parts, room)
+	answer, lines := search.Run(stands, parts, assume, room)
 	for _, line := range lines {
 		x.keep(line)
 	}
@@ -41,6 +42,12 @@ func refusal(assume []int, budget int) api.Errno {
 		return api.ErrBudget
 	}
 	return api.OK
+}
+
+// see makes the variables of assumptions seen, whatever the answer will be (P7).
+func (x *Solver) see(assume []int) {
+	assumed, _ := literal.Of(assume)
+	x.seen |= assumed.Vars()
 }
 
 // room is how much the settings leave for a search.

@@ -88,6 +88,13 @@ func TestSolveRefusesWithReduce(t *testing.T) {
 			t.Errorf("P9: Solve(%v, %d) = %+v, %d", c.assume, c.budget, a, err)
 		}
 	}
+	if x.Counts().Vars != 0 {
+		t.Errorf("P7: what was refused is seen: %+v", x.Counts())
+	}
+	x.Solve([]int{3, -10}, 0)
+	if x.Counts().Vars != 2 {
+		t.Errorf("P7: with 3 and -10: %+v", x.Counts())
+	}
 }
 
 func TestSolveNoClause(t *testing.T) {
@@ -465,18 +472,24 @@ func TestSolveAnyCalls(t *testing.T) {
 				a := w.solve(r.Intn(3) * r.Intn(3))
 				kinds[fmt.Sprint(a.Status, a.Reason)]++
 			default:
-				for range r.Intn(10) {
-					c := pool[r.Intn(len(pool))]
-					if w.want.Lits+len(c) <= 150 {
-						w.add(c)
-					}
-				}
+				w.addSome(r, pool)
 			}
 		}
 	}
 	for _, kind := range []string{"1 0", "2 0", "3 1", "3 2", "3 3"} {
 		if kinds[kind] < 50 {
 			t.Errorf("too few of a kind: %v", kinds)
+		}
+	}
+}
+
+// addSome takes some clauses of a pool, as long as they are taken.
+func (w *watched) addSome(r *rand.Rand, pool [][]int) {
+	w.t.Helper()
+	for range r.Intn(10) {
+		c := pool[r.Intn(len(pool))]
+		if w.want.Lits+len(c) <= 150 {
+			w.add(c)
 		}
 	}
 }

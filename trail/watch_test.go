@@ -1,7 +1,6 @@
 package trail_test
 
 import (
-	"fmt"
 	"slices"
 	"strconv"
 	"strings"
@@ -17,6 +16,7 @@ type watched struct {
 	x        *trail.Solver
 	settings api.Settings
 	taken    [][]int
+	assumed  []int
 	learnt   [][]int
 	proof    string
 	want     api.Counts
@@ -71,7 +71,7 @@ func (w *watched) add(clauses ...[]int) {
 // seen has the variables that were seen, in rising order.
 func (w *watched) seen() []int {
 	var has [11]bool
-	for _, c := range w.taken {
+	for _, c := range append(w.taken[:len(w.taken):len(w.taken)], w.assumed) {
 		for _, n := range c {
 			has[max(n, -n)] = true
 		}
@@ -115,31 +115,53 @@ func (w *watched) refused(assume []int, budget int, want api.Errno) {
 	w.counts()
 }
 
-// solve is a Solve without assumptions that is held against P7 and P9 to P14.
+// solve is a Solve without assumptions.
 func (w *watched) solve(budget int) api.Answer {
 	w.t.Helper()
-	a, err := w.x.Solve(nil, budget)
+	return w.solveWith(nil, budget)
+}
+
+// call is a Solve with lists that are overwritten behind it, by which nothing may be changed (P2).
+func (w *watched) call(assume []int, budget int) api.Answer {
+	w.t.Helper()
+	behind := append(slices.Clone(assume), 98, 99)
+	got, err := w.x.Solve(behind[:len(assume)], budget)
 	if err != api.OK {
-		w.t.Fatalf("P9: Solve(nil, %d) = %d", budget, err)
+		w.t.Fatalf("P9: Solve(%v, %d) = %d", assume, budget, err)
 	}
+	if !slices.Equal(behind, append(slices.Clone(assume), 98, 99)) {
+		w.t.Fatalf("P2: the assumptions %v read %v behind Solve", assume, behind)
+	}
+	a := got
+	a.Values, a.Core, a.Clause = slices.Clone(got.Values), slices.Clone(got.Core), slices.Clone(got.Clause)
+	overwrite(behind, got.Values, got.Core, got.Clause)
+	return a
+}
+
+// solveWith is a Solve that is held against P7 and P9 to P14.
+func (w *watched) solveWith(assume []int, budget int) api.Answer {
+	w.t.Helper()
+	a := w.call(assume, budget)
+	w.assumed = append(w.assumed, assume...)
+	w.want.Vars = len(w.seen())
 	unsatBefore := w.want.Unsat
 	learnt, ends := w.readLines()
 	w.counts()
 	switch a.Status {
 	case api.Sat:
-		w.judgeSat(a)
+		w.judgeSat(a, assume)
 	case api.Unsat:
-		w.judgeUnsat(a)
+		w.judgeUnsat(a, assume)
 	case api.Unknown:
-		w.judgeUnknown(a, learnt, budget, unsatBefore)
+		w.judgeUnknown(a, assume, learnt, budget, unsatBefore)
 	default:
-		w.t.Fatalf("P9: over %v: %+v", w.taken, a)
+		w.t.Fatalf("P9: over %v with %v: %+v", w.taken, assume, a)
 	}
 	if (a.Status == api.Unsat) != (ends == 1) || ends > 1 {
-		w.t.Fatalf("P11: over %v %d e lines with %+v", w.taken, ends, a)
+		w.t.Fatalf("P11: over %v with %v %d e lines with %+v", w.taken, assume, ends, a)
 	}
 	if budget > 0 && learnt > budget {
-		w.t.Fatalf("P13: over %v %d clauses were learnt with the budget %d", w.taken, learnt, budget)
+		w.t.Fatalf("P13: over %v with %v %d clauses were learnt with the budget %d", w.taken, assume, learnt, budget)
 	}
 	return a
 }
@@ -177,7 +199,7 @@ func (w *watched) readLines() (learnt, ends int) {
 		case "e":
 			ends++
 			w.want.Unsat++
-			if why := w.notALine(clause); why != "" {
+			if why := w.notAnEnd(clause); why != "" {
 				w.t.Fatalf("P12: over %v the proof %q ends with %v: %s", w.taken, proof, clause, why)
 			}
 		default:
@@ -196,7 +218,7 @@ func (w *watched) stands() [][]int {
 	return append(append([][]int{}, w.taken...), w.learnt...)
 }
 
-// notALine tells why a clause can't stand in an a line, nor in an e line.
+// notALine tells why a clause can't stand in an a line, nor in an e line; but for its components.
 func (w *watched) notALine(clause []int) string {
 	if len(strings.Fields(setOf(clause))) != len(clause) {
 		return "a literal stands there twice"
@@ -204,12 +226,34 @@ func (w *watched) notALine(clause []int) string {
 	if !pushes(w.stands(), clause) {
 		return "it does not follow"
 	}
-	if len(clause) > 0 {
-		there := w.component(max(clause[0], -clause[0]))
-		for _, n := range clause {
-			if !there[max(n, -n)] {
-				return "it is of two components"
-			}
+	return ""
+}
+
+// inOneComponent tells whether a component of the clauses that were taken has all variables of a clause.
+func (w *watched) inOneComponent(clause []int) bool {
+	if len(clause) == 0 {
+		return true
+	}
+	there := w.component(max(clause[0], -clause[0]))
+	for _, n := range clause {
+		if !there[max(n, -n)] {
+			return false
+		}
+	}
+	return true
+}
+
+// notAnEnd tells why a clause can't stand in an e line.
+func (w *watched) notAnEnd(clause []int) string {
+	if why := w.notALine(clause); why != "" {
+		return why
+	}
+	if w.inOneComponent(clause) {
+		return ""
+	}
+	for _, n := range clause {
+		if max(n, -n) != max(clause[0], -clause[0]) || len(w.component(max(n, -n))) > 0 {
+			return "it is of two components"
 		}
 	}
 	return ""
@@ -219,6 +263,9 @@ func (w *watched) notALine(clause []int) string {
 func (w *watched) notLearnable(clause []int) string {
 	if why := w.notALine(clause); why != "" {
 		return why
+	}
+	if !w.inOneComponent(clause) {
+		return "it is not of one component"
 	}
 	if isTautology(clause) {
 		return "it is a tautology"
@@ -288,41 +335,88 @@ next:
 	return false
 }
 
-func (w *watched) judgeSat(a api.Answer) {
+func (w *watched) judgeSat(a api.Answer, assume []int) {
 	w.t.Helper()
 	if a.Reason != 0 || len(a.Core)+len(a.Clause) != 0 {
-		w.t.Fatalf("P9: over %v Sat with more than values: %+v", w.taken, a)
+		w.t.Fatalf("P9: over %v with %v Sat with more than values: %+v", w.taken, assume, a)
 	}
 	var vars []int
 	for _, n := range a.Values {
 		vars = append(vars, max(n, -n))
 	}
-	if fmt.Sprint(vars) != fmt.Sprint(w.seen()) || !areSo(w.taken, a.Values) {
-		w.t.Fatalf("P10: over %v the values %v", w.taken, a.Values)
+	if !slices.Equal(vars, w.seen()) || !areSo(w.taken, a.Values) || !areSo(units(assume), a.Values) {
+		w.t.Fatalf("P10: over %v with %v the values %v", w.taken, assume, a.Values)
 	}
 }
 
-func (w *watched) judgeUnsat(a api.Answer) {
+// units has each literal as a clause.
+func units(literals []int) [][]int {
+	var l [][]int
+	for _, n := range literals {
+		l = append(l, []int{n})
+	}
+	return l
+}
+
+// notACore tells why a list is not some of the assumptions, in their order, none twice.
+func notACore(core, assume []int) string {
+	rest := assume
+	for i, n := range core {
+		at := slices.Index(rest, n)
+		if at < 0 {
+			return "they are not assumptions in their order"
+		}
+		rest = rest[at+1:]
+		if slices.Contains(core[:i], n) {
+			return "one stands there twice"
+		}
+	}
+	return ""
+}
+
+func opposites(literals []int) []int {
+	var l []int
+	for _, n := range literals {
+		l = append(l, -n)
+	}
+	return l
+}
+
+func (w *watched) judgeUnsat(a api.Answer, assume []int) {
 	w.t.Helper()
 	if a.Reason != 0 || len(a.Values)+len(a.Clause) != 0 {
-		w.t.Fatalf("P9: over %v Unsat with more than a core: %+v", w.taken, a)
+		w.t.Fatalf("P9: over %v with %v Unsat with more than a core: %+v", w.taken, assume, a)
 	}
-	if len(a.Core) != 0 || !strings.HasSuffix(w.proof, "e 0\n") {
-		w.t.Fatalf("P11: over %v the core %v, the proof %q", w.taken, a.Core, w.proof)
+	if why := notACore(a.Core, assume); why != "" {
+		w.t.Fatalf("P11: over %v with %v the core %v: %s", w.taken, assume, a.Core, why)
 	}
-	if someWorld(w.taken) {
-		w.t.Fatalf("P11: over %v Unsat", w.taken)
+	if someWorld(append(units(a.Core), w.taken...)) {
+		w.t.Fatalf("P11: over %v with %v the core %v, and there is a world", w.taken, assume, a.Core)
 	}
 	last, err, n := trail.Check(w.taken, w.proof)
-	if len(last) != 0 || err != api.OK || n != strings.Count(w.proof, "\n") {
-		w.t.Fatalf("P11: over %v Check of the proof %q = %v, %d, %d", w.taken, w.proof, last, err, n)
+	if len(last) != len(a.Core) || setOf(last) != setOf(opposites(a.Core)) || err != api.OK || n != strings.Count(w.proof, "\n") {
+		w.t.Fatalf("P11: over %v with %v the core %v, and Check of the proof %q = %v, %d, %d", w.taken, assume, a.Core, w.proof, last, err, n)
 	}
 }
 
-func (w *watched) judgeUnknown(a api.Answer, learnt, budget, unsatBefore int) {
+// notNext tells why no line with a clause could be written next.
+func (w *watched) notNext(clause, assume []int) string {
+	why := w.notLearnable(clause)
+	if why == "" {
+		return ""
+	}
+	for _, n := range clause {
+		if !slices.Contains(assume, -n) {
+			return why + ", and not the opposites of assumptions"
+		}
+	}
+	return w.notAnEnd(clause)
+}
+
+func (w *watched) judgeUnknown(a api.Answer, assume []int, learnt, budget, unsatBefore int) {
 	w.t.Helper()
 	if len(a.Values)+len(a.Core) != 0 || a.Reason == api.ByBudget && len(a.Clause) != 0 {
-		w.t.Fatalf("P9: over %v Unknown with more than a reason and a clause: %+v", w.taken, a)
+		w.t.Fatalf("P9: over %v with %v Unknown with more than a reason and a clause: %+v", w.taken, assume, a)
 	}
 	why := ""
 	switch a.Reason {
@@ -336,7 +430,7 @@ func (w *watched) judgeUnknown(a api.Answer, learnt, budget, unsatBefore int) {
 			why = "there is room"
 		}
 	case api.ByLog:
-		why = w.notALine(a.Clause)
+		why = w.notNext(a.Clause, assume)
 		if w.want.Log+len(a.Clause)+1 <= w.settings.Log {
 			why = "there is room"
 		}
@@ -344,11 +438,11 @@ func (w *watched) judgeUnknown(a api.Answer, learnt, budget, unsatBefore int) {
 		why = "no reason"
 	}
 	if why != "" {
-		w.t.Fatalf("P13: over %v, with %+v, the budget %d and the proof %q: %+v: %s", w.taken, w.settings, budget, w.proof, a, why)
+		w.t.Fatalf("P13: over %v with %v, with %+v, the budget %d and the proof %q: %+v: %s", w.taken, assume, w.settings, budget, w.proof, a, why)
 	}
 	held, log := roomFor(w.want.Vars, unsatBefore)
 	if budget == 0 && held <= w.settings.Held && log <= w.settings.Log {
-		w.t.Fatalf("P14: over %v, with %+v and the proof %q: %+v", w.taken, w.settings, w.proof, a)
+		w.t.Fatalf("P14: over %v with %v, with %+v and the proof %q: %+v", w.taken, assume, w.settings, w.proof, a)
 	}
 }
 
