@@ -119,6 +119,20 @@ func Total(sets []Set) int {
 	return n
 }
 
+// LeaveOut has the sets but for the first that is like this one.
+func LeaveOut(sets []Set, set Set) []Set {
+	var l []Set
+	found := false
+	for _, s := range sets {
+		if s == set && !found {
+			found = true
+			continue
+		}
+		l = append(l, s)
+	}
+	return l
+}
+
 // bit is 0 for what is no variable: no shift goes astray, and of n and -n at most one has a bit.
 func bit(v int) int {
 	if v < 1 || v > api.MaxVar {

@@ -148,3 +148,23 @@ func TestFirstVar(t *testing.T) {
 		t.Errorf("FirstVar of no variable = %d", got)
 	}
 }
+
+func TestLeaveOut(t *testing.T) {
+	one, two, three := Set{True: 2}, Set{False: 2}, Set{True: 2, False: 4}
+	for _, c := range []struct {
+		sets []Set
+		want []Set
+	}{
+		{nil, nil},
+		{[]Set{one}, nil},
+		{[]Set{two}, []Set{two}},
+		{[]Set{one, two, three}, []Set{two, three}},
+		{[]Set{two, three, one}, []Set{two, three}},
+		{[]Set{two, one, three, one}, []Set{two, three, one}},
+	} {
+		sets := slices.Clone(c.sets)
+		if got := LeaveOut(sets, one); !slices.Equal(got, c.want) || !slices.Equal(sets, c.sets) {
+			t.Errorf("LeaveOut(%v) = %v, want %v; the sets are %v", c.sets, got, c.want, sets)
+		}
+	}
+}

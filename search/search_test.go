@@ -2,6 +2,7 @@ package search
 
 import (
 	"fmt"
+	"slices"
 	"testing"
 
 	"trail/api"
@@ -16,7 +17,31 @@ var signs = [][]int{{1, 2}, {1, -2}, {-1, 2}, {-1, -2}}
 // run searches over clauses, and tells the lines as a text.
 func run(t *testing.T, clauses [][]int, assume []int, room Room) (api.Answer, string, *pushing.Clauses) {
 	t.Helper()
+	return runBehind(t, clauses, nil, assume, room)
+}
+
+// runBehind is run behind other searches that learnt something.
+func runBehind(t *testing.T, clauses, learnt [][]int, assume []int, room Room) (api.Answer, string, *pushing.Clauses) {
+	t.Helper()
 	stands := pushing.New()
+	sets := place(t, stands, clauses)
+	there := place(t, stands, learnt)
+	behind := append(slices.Clone(there), literal.Set{True: 2})
+	assumed, _ := literal.Of(assume)
+	a, lines := Run(stands, behind[:len(there)], components.Of(sets, assumed.Vars()), assume, room)
+	if !slices.Equal(behind, append(there, literal.Set{True: 2})) {
+		t.Errorf("P2: of %v became %v", there, behind)
+	}
+	var proof []byte
+	for _, l := range lines {
+		proof = texts.AppendLine(proof, l)
+	}
+	return a, string(proof), stands
+}
+
+// place makes clauses stand there, and has those that are not empty as sets.
+func place(t *testing.T, stands *pushing.Clauses, clauses [][]int) []literal.Set {
+	t.Helper()
 	var sets []literal.Set
 	for _, c := range clauses {
 		s, right := literal.Of(c)
@@ -28,13 +53,7 @@ func run(t *testing.T, clauses [][]int, assume []int, room Room) (api.Answer, st
 			sets = append(sets, s)
 		}
 	}
-	assumed, _ := literal.Of(assume)
-	a, lines := Run(stands, components.Of(sets, assumed.Vars()), assume, room)
-	var proof []byte
-	for _, l := range lines {
-		proof = texts.AppendLine(proof, l)
-	}
-	return a, string(proof), stands
+	return sets
 }
 
 func TestRun(t *testing.T) {
@@ -138,5 +157,84 @@ func TestRunLearnsWithoutIdleAssumptions(t *testing.T) {
 	a, proof, _ := run(t, clauses, []int{8, -6, 7}, Room{Held: 100, Log: 100})
 	if a.Status != api.Unsat || fmt.Sprint(a.Core) != "[-6]" || proof != "a -1 6 0\ne 6 0\n" {
 		t.Errorf("P11: %+v, %q", a, proof)
+	}
+}
+
+// idle has learnt clauses of a component in which nothing is to be learnt.
+var idle = [][]int{{7, 8}, {7, 8, 9}, {7, 9}, {7, 10}, {8, 9}, {8, 10}, {9, 10}, {8, 9, 10}, {7, 9, 10}, {7, 8, 10}, {7, -8, 9}}
+
+// beside makes one component of the variables of idle.
+var beside = []int{7, 8, 9, 10}
+
+func TestRunDropsTheLongestIdle(t *testing.T) {
+	fan := [][]int{{-1, 2}, {-1, 3}, {-1, 4}, {1, 5}, {1, -5}}
+	for _, c := range []struct {
+		clauses [][]int
+		learnt  []int
+		drops   string
+		rest    string
+	}{
+		// All are idle.
+		{signs, []int{7, -8}, "d 7 8 9 0\n", "a -1 0\ne 0\n"},
+		{signs, []int{7, 8, 9, -10}, "d 7 8 9 -10 0\n", "a -1 0\ne 0\n"},
+		// The clash needs the longest.
+		{fan, []int{-1, -2, -3, -4}, "d 7 8 9 0\n", "a -1 0\ne 0\n"},
+		// The clash does not need the longest, but without it 3 would not be known with 1, and would be decided.
+		{[][]int{{2}, {4}, {1, 2, 3, 4}, {-1, -5, 6}, {-1, -5, -6}}, []int{-1, -2, 3, -4}, "d 7 8 9 0\n", "a -1 -5 0\n"},
+		// An earlier component has its values by the longest.
+		{[][]int{{1, 2, 3, 4}, {5, 6}, {5, -6}, {-5, 6}, {-5, -6}}, []int{-1, -2, -3, -4}, "d 7 8 9 0\n", "a -5 0\ne 0\n"},
+		// What was taken too stands there without it.
+		{append([][]int{{-1, -2, -3, -4}}, fan...), []int{-1, -2, -3, -4}, "d -1 -2 -3 -4 0\n", "a -1 0\ne 0\n"},
+	} {
+		clauses := append(slices.Clone(c.clauses), beside)
+		learnt := append(slices.Clone(idle), c.learnt)
+		for reduce, want := range map[int]string{12: c.drops + c.rest, 13: c.rest, 0: c.rest} {
+			a, proof, _ := runBehind(t, clauses, learnt, nil, Room{Reduce: reduce, Held: 2, Log: 100})
+			if a.Status == api.Unknown || proof != want {
+				t.Errorf("P15: Reduce %d, over %v, behind %v: %+v, %q, want %q", reduce, clauses, learnt, a, proof, want)
+			}
+		}
+	}
+}
+
+// What is dropped makes room for literals, and takes room in the proof.
+func TestRunDropsWithLittleRoom(t *testing.T) {
+	learnt := append(slices.Clone(idle), []int{7, -8})
+	for _, c := range []struct {
+		room   Room
+		status int
+		reason int
+		clause string
+		proof  string
+	}{
+		{Room{Budget: 1, Held: 0, Log: 7}, api.Unsat, 0, "[]", "d 7 8 9 0\na -1 0\ne 0\n"},
+		{Room{Held: -2, Log: 7}, api.Unsat, 0, "[]", "d 7 8 9 0\na -1 0\ne 0\n"},
+		{Room{Held: -3, Log: 7}, api.Unknown, api.ByHeld, "[-1]", "d 7 8 9 0\n"},
+		{Room{Held: 5, Log: 6}, api.Unknown, api.ByLog, "[]", "d 7 8 9 0\na -1 0\n"},
+		{Room{Held: 5, Log: 5}, api.Unknown, api.ByLog, "[-1]", "d 7 8 9 0\n"},
+		{Room{Held: 5, Log: 4}, api.Unknown, api.ByLog, "[-1]", "d 7 8 9 0\n"},
+		{Room{Held: 5, Log: 3}, api.Unknown, api.ByLog, "[7 8 9]", ""},
+		{Room{Held: -3, Log: 0}, api.Unknown, api.ByLog, "[7 8 9]", ""},
+	} {
+		c.room.Reduce = 12
+		a, proof, _ := runBehind(t, append(slices.Clone(signs), beside), learnt, nil, c.room)
+		if a.Status != c.status || a.Reason != c.reason || fmt.Sprint(a.Clause) != c.clause || proof != c.proof {
+			t.Errorf("P13: with %+v: %+v, %q", c.room, a, proof)
+		}
+	}
+}
+
+// What was dropped stands there no more.
+func TestRunDropsOnce(t *testing.T) {
+	learnt := append(slices.Clone(idle), []int{7, 8, 9, -10})
+	taken := [][]int{{7, 8, 9, -10}, beside}
+	_, _, stands := runBehind(t, append(taken, signs...), learnt, nil, Room{Reduce: 12, Held: 1, Log: 100})
+	dropped, _ := literal.Of([]int{7, 8, 9, -10})
+	if !stands.Drop(dropped) || stands.Drop(dropped) {
+		t.Error("P15: of a clause that was taken and learnt, the taken one does not stand there")
+	}
+	other, _ := literal.Of(idle[1])
+	if !stands.Drop(other) || stands.Drop(other) {
+		t.Error("P15: more than one was dropped")
 	}
 }

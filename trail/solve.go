@@ -15,14 +15,10 @@ func (x *Solver) Solve(assume []int, budget int) (api.Answer, api.Errno) {
 		return api.Answer{}, err
 	}
 	x.see(assume)
-	// The search does not heed Reduce so far, and no answer is better than a wrong one.
-	if x.settings.Reduce > 0 {
-		return api.Answer{}, api.OK
-	}
 	stands := x.standing()
 	parts := components.Of(x.taken, x.seen)
 	room := x.room(budget)
-	answer, lines := search.Run(stands, parts, assume, room)
+	answer, lines := search.Run(stands, x.learnt, parts, assume, room)
 	for _, line := range lines {
 		x.keep(line)
 	}
@@ -54,6 +50,7 @@ func (x *Solver) see(assume []int) {
 func (x *Solver) room(budget int) search.Room {
 	return search.Room{
 		Budget: budget,
+		Reduce: x.settings.Reduce,
 		Held:   x.settings.Held - literal.Total(x.learnt),
 		Log:    x.settings.Log - x.size,
 	}
@@ -63,11 +60,14 @@ func (x *Solver) room(budget int) search.Room {
 func (x *Solver) keep(line texts.Line) {
 	x.proof = texts.AppendLine(x.proof, line)
 	x.size += line.Size()
-	if line.Letter == texts.Ends {
-		x.unsat++
-		return
-	}
 	// All numbers of a line are literals.
 	set, _ := literal.Of(line.Literals)
-	x.learnt = append(x.learnt, set)
+	switch line.Letter {
+	case texts.Adds:
+		x.learnt = append(x.learnt, set)
+	case texts.Drops:
+		x.learnt = literal.LeaveOut(x.learnt, set)
+	case texts.Ends:
+		x.unsat++
+	}
 }

@@ -77,26 +77,6 @@ func TestSolveRefuses(t *testing.T) {
 	}
 }
 
-func TestSolveRefusesWithReduce(t *testing.T) {
-	x, _ := trail.New(api.Settings{Reduce: 12, Held: 100, Log: 100})
-	for _, c := range []struct {
-		assume []int
-		budget int
-		want   api.Errno
-	}{{many(0, 21), -1, api.ErrLong}, {[]int{0}, -1, api.ErrLit}, {nil, -1, api.ErrBudget}} {
-		if a, err := x.Solve(c.assume, c.budget); err != c.want || !reflect.DeepEqual(a, api.Answer{}) {
-			t.Errorf("P9: Solve(%v, %d) = %+v, %d", c.assume, c.budget, a, err)
-		}
-	}
-	if x.Counts().Vars != 0 {
-		t.Errorf("P7: what was refused is seen: %+v", x.Counts())
-	}
-	x.Solve([]int{3, -10}, 0)
-	if x.Counts().Vars != 2 {
-		t.Errorf("P7: with 3 and -10: %+v", x.Counts())
-	}
-}
-
 func TestSolveNoClause(t *testing.T) {
 	for _, budget := range []int{0, 1, math.MaxInt} {
 		for _, w := range []*watched{spacious(t), watch(t, 0, 0), watch(t, 0, 0, []int{1, -1}, []int{-10, 3, 10})} {

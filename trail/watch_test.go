@@ -20,11 +20,21 @@ type watched struct {
 	learnt   [][]int
 	proof    string
 	want     api.Counts
+	// mostHeld is the greatest number of literals that learnt clauses had together so far.
+	mostHeld int
+	// dropped has what was dropped so far, as sets; of these twins were taken too, and again is how often one was learnt again.
+	dropped []string
+	twins   int
+	again   int
 }
 
 func watch(t *testing.T, held, log int, clauses ...[]int) *watched {
 	t.Helper()
-	s := api.Settings{Held: held, Log: log}
+	return watchSettings(t, api.Settings{Held: held, Log: log}, clauses...)
+}
+
+func watchSettings(t *testing.T, s api.Settings, clauses ...[]int) *watched {
+	t.Helper()
 	x, err := trail.New(s)
 	if err != api.OK {
 		t.Fatalf("P5: New(%+v) = %d", s, err)
@@ -138,7 +148,7 @@ func (w *watched) call(assume []int, budget int) api.Answer {
 	return a
 }
 
-// solveWith is a Solve that is held against P7 and P9 to P14.
+// solveWith is a Solve that is held against P7 and P9 to P15.
 func (w *watched) solveWith(assume []int, budget int) api.Answer {
 	w.t.Helper()
 	a := w.call(assume, budget)
@@ -189,29 +199,62 @@ func (w *watched) readLines() (learnt, ends int) {
 		}
 		switch m[1] {
 		case "a":
-			if why := w.notLearnable(clause); why != "" {
-				w.t.Fatalf("P12: over %v, with the proof %q, is learnt %v: %s", w.taken, proof, clause, why)
-			}
 			learnt++
-			w.learnt = append(w.learnt, clause)
-			w.want.Learnt++
-			w.want.Held += len(clause)
+			w.learns(clause, proof)
+		case "d":
+			w.drops(clause, proof)
 		case "e":
 			ends++
-			w.want.Unsat++
-			if why := w.notAnEnd(clause); why != "" {
-				w.t.Fatalf("P12: over %v the proof %q ends with %v: %s", w.taken, proof, clause, why)
-			}
-		default:
-			w.t.Fatalf("P15: over %v with Reduce 0 a line %q", w.taken, m[0])
+			w.ends(clause, proof)
 		}
 		w.want.Log += len(clause) + 1
-	}
-	if w.want.Held > w.settings.Held || w.want.Log > w.settings.Log {
-		w.t.Fatalf("P13: over %v, with %+v: %+v", w.taken, w.settings, w.want)
+		if w.want.Held > w.settings.Held || w.want.Log > w.settings.Log {
+			w.t.Fatalf("P13: over %v, with %+v and the proof %q: at %q %+v", w.taken, w.settings, proof, m[0], w.want)
+		}
 	}
 	w.proof = proof
 	return learnt, ends
+}
+
+func (w *watched) learns(clause []int, proof string) {
+	w.t.Helper()
+	if why := w.notLearnable(clause); why != "" {
+		w.t.Fatalf("P12, P15: over %v, with %+v and the proof %q, is learnt %v: %s", w.taken, w.settings, proof, clause, why)
+	}
+	if slices.Contains(w.dropped, setOf(clause)) {
+		w.again++
+	}
+	w.learnt = append(w.learnt, clause)
+	w.want.Learnt++
+	w.want.Held += len(clause)
+	w.mostHeld = max(w.mostHeld, w.want.Held)
+}
+
+func (w *watched) drops(clause []int, proof string) {
+	w.t.Helper()
+	if why := w.notDroppable(clause); why != "" {
+		w.t.Fatalf("P15: over %v, with %+v and the proof %q, is dropped %v: %s", w.taken, w.settings, proof, clause, why)
+	}
+	w.learnt = slices.Delete(w.learnt, indexOf(w.learnt, clause), indexOf(w.learnt, clause)+1)
+	w.dropped = append(w.dropped, setOf(clause))
+	if indexOf(w.taken, clause) >= 0 {
+		w.twins++
+	}
+	w.want.Learnt--
+	w.want.Held -= len(clause)
+}
+
+func (w *watched) ends(clause []int, proof string) {
+	w.t.Helper()
+	if why := w.notAnEnd(clause); why != "" {
+		w.t.Fatalf("P12: over %v the proof %q ends with %v: %s", w.taken, proof, clause, why)
+	}
+	w.want.Unsat++
+}
+
+// indexOf is the place of the first of the clauses with just these literals, or below 0.
+func indexOf(clauses [][]int, clause []int) int {
+	return slices.IndexFunc(clauses, func(c []int) bool { return setOf(c) == setOf(clause) })
 }
 
 func (w *watched) stands() [][]int {
@@ -261,6 +304,9 @@ func (w *watched) notAnEnd(clause []int) string {
 
 // notLearnable tells why a clause can't be learnt.
 func (w *watched) notLearnable(clause []int) string {
+	if w.settings.Reduce > 0 && w.want.Learnt >= w.settings.Reduce {
+		return "there are as many as may be"
+	}
 	if why := w.notALine(clause); why != "" {
 		return why
 	}
@@ -270,10 +316,25 @@ func (w *watched) notLearnable(clause []int) string {
 	if isTautology(clause) {
 		return "it is a tautology"
 	}
-	for _, c := range w.stands() {
-		if setOf(c) == setOf(clause) {
-			return "it is there already"
-		}
+	if indexOf(w.stands(), clause) >= 0 {
+		return "it is there already"
+	}
+	return ""
+}
+
+// notDroppable tells why a clause can't be dropped.
+func (w *watched) notDroppable(clause []int) string {
+	if w.settings.Reduce == 0 {
+		return "Reduce is 0"
+	}
+	if indexOf(w.learnt, clause) < 0 {
+		return "it is no learnt clause that is there"
+	}
+	if why := w.notALine(clause); why != "" {
+		return why
+	}
+	if !w.inOneComponent(clause) {
+		return "it is not of one component"
 	}
 	return ""
 }
@@ -402,7 +463,7 @@ func (w *watched) judgeUnsat(a api.Answer, assume []int) {
 // notNext tells why no line with a clause could be written next.
 func (w *watched) notNext(clause, assume []int) string {
 	why := w.notLearnable(clause)
-	if why == "" {
+	if why == "" || w.notDroppable(clause) == "" {
 		return ""
 	}
 	for _, n := range clause {
@@ -441,7 +502,7 @@ func (w *watched) judgeUnknown(a api.Answer, assume []int, learnt, budget, unsat
 		w.t.Fatalf("P13: over %v with %v, with %+v, the budget %d and the proof %q: %+v: %s", w.taken, assume, w.settings, budget, w.proof, a, why)
 	}
 	held, log := roomFor(w.want.Vars, unsatBefore)
-	if budget == 0 && held <= w.settings.Held && log <= w.settings.Log {
+	if w.settings.Reduce == 0 && budget == 0 && held <= w.settings.Held && log <= w.settings.Log {
 		w.t.Fatalf("P14: over %v with %v, with %+v and the proof %q: %+v", w.taken, assume, w.settings, w.proof, a)
 	}
 }
